@@ -1,0 +1,1 @@
+"""Notes told from one hill to another by flags."""

@@ -1,0 +1,9 @@
+"""The refusals of the program."""
+
+
+class LineError(ValueError):
+    pass
+
+
+class NoWidth(LineError):
+    pass
