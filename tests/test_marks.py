@@ -65,8 +65,9 @@ class MarkOfTest(unittest.TestCase):
     def test_against_counting(self):
         for width in WIDTHS:
             with self.subTest(width=width):
-                found = [mark_of(number, width) for number in range(700)]
-                self.assertEqual(found, marks_by_counting(width, 700))
+                # One by one, for unittest is slow to tell two long lists apart.
+                for number, mark in enumerate(marks_by_counting(width, 700)):
+                    self.assertEqual(mark_of(number, width), mark, number)
 
     def test_a_number_of_a_hundred_figures(self):
         self.assertEqual(len(str(HUNDRED_FIGURES)), 100)
@@ -128,9 +129,9 @@ class StepsOnTest(unittest.TestCase):
                        2 * a_round - 1, 2 * a_round, 2 * a_round + 1)
             for number in numbers:
                 with self.subTest(width=width, number=number):
-                    found = [steps_on(number, mark, width) for mark in range(a_round)]
-                    walked = [steps_by_walking(marks[number], mark, width) for mark in range(a_round)]
-                    self.assertEqual(found, walked)
+                    for mark in range(a_round):
+                        walked = steps_by_walking(marks[number], mark, width)
+                        self.assertEqual(steps_on(number, mark, width), walked, mark)
 
     def test_a_number_of_a_hundred_figures(self):
         # The mark of this number is 0 with the width 100, and 4 with the width 3.
