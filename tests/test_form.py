@@ -23,6 +23,12 @@ WORDS_NOT_USED = set("""
     namedtuple NamedTuple TypedDict TYPE_CHECKING abstractmethod
 """.split())
 
+METHODS_OF_PYTHONS_OWN = set("""
+    append clear copy count endswith extend find get index insert isalnum isalpha isdigit islower isspace
+    isupper items join keys ljust lower lstrip partition pop remove replace reverse rfind rjust rpartition
+    rsplit rstrip setdefault split splitlines startswith strip update upper values zfill bit_length
+""".split())
+
 STATEMENTS = (
     ast.FunctionDef, ast.ClassDef, ast.ImportFrom, ast.Assign, ast.AugAssign, ast.If, ast.While, ast.For,
     ast.Return, ast.Break, ast.Continue, ast.Pass, ast.Raise, ast.Try, ast.Expr,
@@ -41,10 +47,21 @@ def nodes(kind):
     return [(name, node) for name, text in sources() for node in ast.walk(ast.parse(text)) if isinstance(node, kind)]
 
 
+def bound_words():
+    """The names that are given a meaning: parameters, locals, and those of a file's top."""
+    words = [(name, node.arg) for name, node in nodes(ast.arg)]
+    return words + [(name, node.id) for name, node in nodes(ast.Name) if isinstance(node.ctx, ast.Store)]
+
+
+def own_methods():
+    found = [inner for name, node in nodes(ast.ClassDef) for inner in node.body if isinstance(inner, ast.FunctionDef)]
+    return {inner.name for inner in found if inner.name != "__init__"}
+
+
 class FormTest(unittest.TestCase):
     def test_there_are_files_to_look_at(self):
         names = [path.name for path in files()]
-        for name in ("__init__.py", "errors.py", "marks.py"):
+        for name in ("__init__.py", "errors.py", "marks.py", "hills.py", "post.py", "day.py"):
             self.assertIn(name, names)
 
     def test_only_plainly_named_files(self):
@@ -99,6 +116,71 @@ class FormTest(unittest.TestCase):
             if word not in ("__init__", "__eq__", "__repr__", "__str__", "__len__", "__all__", "__version__"):
                 with self.subTest(name=name, word=word):
                     self.assertRegex(word, r"\A[A-Za-z][A-Za-z0-9_]*\Z")
+
+    def test_nothing_else_bears_a_name_of_python_s_own(self):
+        for name, word in bound_words():
+            with self.subTest(name=name, word=word):
+                self.assertNotIn(word, dir(builtins))
+
+    def test_no_local_bears_the_name_of_an_import_or_a_class_of_its_file(self):
+        taken = [(name, alias.name) for name, node in nodes(ast.ImportFrom) for alias in node.names]
+        taken = taken + [(name, node.name) for name, node in nodes(ast.ClassDef)]
+        for name, word in bound_words():
+            with self.subTest(name=name, word=word):
+                self.assertNotIn((name, word), taken)
+
+    def test_imports_come_from_the_file_that_defines_the_name(self):
+        for name, node in nodes(ast.ImportFrom):
+            home = node.module.split(".")[-1] + ".py"
+            defined = [inner.name for other, inner in nodes((ast.FunctionDef, ast.ClassDef)) if other == home]
+            for alias in node.names:
+                with self.subTest(name=name, word=alias.name):
+                    self.assertIn(alias.name, defined)
+                    self.assertIsNone(alias.asname)
+
+    def test_no_two_files_draw_from_one_another(self):
+        drawn = {name: set() for name, text in sources()}
+        for name, node in nodes(ast.ImportFrom):
+            drawn[name].add(node.module.split(".")[-1] + ".py")
+        while drawn:
+            free = [name for name in drawn if not drawn[name] & set(drawn)]
+            self.assertNotEqual(free, [], drawn)
+            drawn = {name: drawn[name] for name in drawn if name not in free}
+
+    def test_methods_are_listed_or_the_package_s_own(self):
+        own = own_methods()
+        for name, node in nodes(ast.Call):
+            if isinstance(node.func, ast.Attribute):
+                with self.subTest(name=name, row=node.lineno):
+                    self.assertIn(node.func.attr, METHODS_OF_PYTHONS_OWN | own)
+
+    def test_own_methods_and_values_bear_names_of_their_own(self):
+        methods = own_methods()
+        values = {node.attr for name, node in nodes(ast.Attribute) if isinstance(node.ctx, ast.Store)}
+        self.assertEqual(methods & values, set())
+        for word in methods | values:
+            for kind in (str, int, list, tuple, dict, set, bytes):
+                with self.subTest(word=word, kind=kind.__name__):
+                    self.assertFalse(hasattr(kind, word))
+
+    def test_is_stands_beside_none_true_and_false_alone(self):
+        for name, node in nodes(ast.Compare):
+            if isinstance(node.ops[0], (ast.Is, ast.IsNot)):
+                with self.subTest(name=name, row=node.lineno):
+                    self.assertIsInstance(node.comparators[0], ast.Constant)
+                    self.assertIn(node.comparators[0].value, (None, True, False))
+
+    def test_one_target_in_an_assignment(self):
+        for name, node in nodes(ast.Assign):
+            with self.subTest(name=name, row=node.lineno):
+                self.assertEqual(len(node.targets), 1)
+                self.assertIsInstance(node.targets[0], (ast.Name, ast.Attribute, ast.Subscript))
+
+    def test_plain_values(self):
+        for name, node in nodes(ast.Constant):
+            with self.subTest(name=name, row=node.lineno):
+                self.assertIn(type(node.value), (int, str, bool, type(None)))
+                self.assertNotIn("%", str(node.value))
 
 
 if __name__ == "__main__":
