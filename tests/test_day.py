@@ -1,6 +1,6 @@
 import unittest
 
-from flaghill.day import handed_over, states, told
+from flaghill.day import begun, done, handed_over, states, told
 from flaghill.errors import LineError, NoWidth
 
 COME = ("come",)
@@ -305,6 +305,33 @@ class LineBackTest(DayCase):
             (COME_BACK, True, (2, 2, 0, 0)),
             (TWICE_BACK, False, (2, 2, 0, 0)),
         ], ["a", "b"])
+
+
+class ShownTest(unittest.TestCase):
+    """What is on the lines shows marks, which the states can't tell from the numbers themselves."""
+
+    def day_behind(self, width, rounds):
+        day = begun(["x"] * 20, width)
+        for number in range(rounds):
+            for deed in (tell(0), COME, ANSWER, COME_BACK):
+                self.assertIs(done(day, deed), True)
+        return day
+
+    def test_a_message_is_a_pair_of_the_mark_and_the_note(self):
+        for width, rounds, step, mark in ((2, 0, 0, 0), (2, 3, 0, 3), (2, 3, 1, 0), (2, 4, 0, 0), (2, 9, 1, 2),
+                                          (1, 1, 0, 1), (1, 2, 0, 0), (3, 5, 2, 1), (100, 7, 5, 12)):
+            with self.subTest(width=width, rounds=rounds, step=step):
+                day = self.day_behind(width, rounds)
+                done(day, tell(step))
+                self.assertEqual(day.there.take_foremost(), (mark, "x"))
+
+    def test_an_answer_is_the_mark_of_how_many_were_handed_over(self):
+        for width, rounds, mark in ((2, 0, 0), (2, 3, 3), (2, 4, 0), (2, 9, 1), (1, 1, 1), (1, 2, 0), (3, 7, 1),
+                                    (100, 7, 7)):
+            with self.subTest(width=width, rounds=rounds):
+                day = self.day_behind(width, rounds)
+                done(day, ANSWER)
+                self.assertEqual(day.back.take_foremost(), mark)
 
 
 class RefusedTest(DayCase):
